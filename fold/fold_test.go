@@ -1,0 +1,410 @@
+package fold
+
+import (
+	"math"
+	"reflect"
+	"slices"
+	"testing"
+
+	"distaff/api"
+	"distaff/arith"
+	"distaff/ir"
+	"distaff/sound"
+)
+
+// Short ways to make functions.
+
+func list(l ...int) []int { return l }
+
+func ins(op, is int, args ...int) api.Ins { return api.Ins{Op: op, Type: is, Args: args} }
+
+func number(n int64) api.Ins { return api.Ins{Op: api.OpConst, Type: api.TypeInt, N: n} }
+
+func truth(n int64) api.Ins { return api.Ins{Op: api.OpConst, Type: api.TypeBool, N: n} }
+
+func param(is int, n int64) api.Ins { return api.Ins{Op: api.OpParam, Type: is, N: n} }
+
+func guard(which int64, arg int) api.Ins {
+	return api.Ins{Op: api.OpGuard, N: which, Args: list(arg)}
+}
+
+func show(arg int) api.Ins { return ins(api.OpPrint, api.TypeVoid, arg) }
+
+func input() api.Ins { return ins(api.OpInput, api.TypeInt) }
+
+func phi(is int, args ...int) api.Ins { return ins(api.OpPhi, is, args...) }
+
+func block(t api.Term, preds, l []int) api.Block { return api.Block{List: l, Preds: preds, Term: t} }
+
+// upTo is the numbers from one on, below another one.
+func upTo(from, below int) []int {
+	var l []int
+	for n := from; n < below; n++ {
+		l = append(l, n)
+	}
+	return l
+}
+
+// straight is a main of one block, with its instructions in order, that returns one of them.
+func straight(back int, l ...api.Ins) api.Func {
+	return api.Func{Name: "main", Ret: api.TypeInt, Ins: l, Blocks: []api.Block{block(ir.Ret(back), nil, upTo(0, len(l)))}}
+}
+
+// choice is a main that goes over one of two ways to its last block, whose instructions are told; it returns the last one of all.
+func choice(ahead []api.Ins, c int, last ...api.Ins) api.Func {
+	many := len(ahead) + len(last)
+	return api.Func{Name: "main", Ret: api.TypeInt, Ins: slices.Concat(ahead, last), Blocks: []api.Block{
+		block(ir.Branch(c, 1, 2), nil, upTo(0, len(ahead))),
+		block(ir.Jump(3), list(0), nil),
+		block(ir.Jump(3), list(0), nil),
+		block(ir.Ret(many-1), list(1, 2), upTo(len(ahead), many)),
+	}}
+}
+
+// left asks what is promised of each answer, but what it does: it is sound, nothing is left that the promise rules out, once is as good as twice, and what was handed in is as it was.
+func left(t testing.TB, f api.Func) api.Func {
+	t.Helper()
+	before := ir.Clone(f)
+	got := Func(f)
+	if !ir.Same(f, before) {
+		t.Fatalf("changed: %s\n%s", ir.Print(before), ir.Print(f))
+	}
+	if !ir.Same(Func(got), got) {
+		t.Fatalf("once more:\n%s\n%s", ir.Print(got), ir.Print(Func(got)))
+	}
+	for id, x := range got.Ins {
+		if ruledOut(got, id, x) {
+			t.Fatalf("%d is left:\n%s", id, ir.Print(got))
+		}
+	}
+	return got
+}
+
+// ruledOut tells whether an instruction must not be left.
+func ruledOut(f api.Func, id int, x api.Ins) bool {
+	known := func(at int) bool { return f.Ins[x.Args[at]].Op == api.OpConst }
+	switch {
+	case x.Op == api.OpGuard:
+		return known(0) && f.Ins[x.Args[0]].N != 0
+	case x.Op == api.OpSelect:
+		return known(0)
+	case x.Op == api.OpPhi:
+		others := map[int]int{}
+		for _, a := range x.Args {
+			others[a]++
+		}
+		delete(others, id)
+		return len(others) < 2
+	case x.Op == api.OpDiv || x.Op == api.OpRem:
+		return known(0) && known(1) && f.Ins[x.Args[1]].N != 0
+	case arith.Unary(x.Op):
+		return known(0)
+	case arith.Binary(x.Op):
+		return known(0) && known(1)
+	}
+	return false
+}
+
+// want asks what comes of a function.
+func want(t *testing.T, f, is api.Func) {
+	t.Helper()
+	fine(t, f)
+	fine(t, is)
+	if got := left(t, f); !ir.Same(got, is) {
+		t.Errorf("of %sis %snot %s", ir.Print(f), ir.Print(got), ir.Print(is))
+	}
+}
+
+// stays asks whether a function comes out as it is.
+func stays(t *testing.T, f api.Func) {
+	t.Helper()
+	want(t, f, f)
+}
+
+// fine asks whether a main is sound.
+func fine(t testing.TB, f api.Func) {
+	t.Helper()
+	if why, _ := sound.Prog(api.Prog{Funcs: []api.Func{f}}); why != api.FlawNone {
+		t.Fatalf("flaw %d: %s", why, ir.Print(f))
+	}
+}
+
+// Promise 14.1: the chapter's example; what is reckoned is an OpConst in its place, and what nobody needs any more stays.
+func TestSum(t *testing.T) {
+	want(t, straight(2, number(1), number(2), ins(api.OpAdd, api.TypeInt, 0, 1)), straight(2, number(1), number(2), number(3)))
+	want(t, straight(4, number(1), input(), ins(api.OpAdd, api.TypeInt, 0, 0), show(1), ins(api.OpMul, api.TypeInt, 2, 2)),
+		straight(4, number(1), input(), number(2), show(1), number(4)))
+	stays(t, straight(0, number(7), number(7), truth(1)))
+}
+
+// edges are numbers at which operations differ.
+func edges() []int64 {
+	return []int64{0, 1, 2, 3, -1, -2, 7, -7, 63, 64, 65, 1 << 31, 1 << 62, math.MaxInt64, math.MinInt64, math.MinInt64 + 1}
+}
+
+// Promise 14.1: each operation of known numbers is what layer 1 says, of the type that it was of; / and % by 0 stay.
+func TestOperations(t *testing.T) {
+	for op := range api.OpCall + 2 {
+		is := api.TypeInt
+		if arith.Compares(op) {
+			is = api.TypeBool
+		}
+		for _, a := range edges() {
+			if op != api.OpFlip && arith.Unary(op) {
+				n, _ := arith.One(op, a)
+				want(t, straight(0, number(a), ins(op, is, 0)), straight(0, number(a), api.Ins{Op: api.OpConst, Type: is, N: n}))
+			}
+			for _, b := range edges() {
+				f := straight(0, number(a), number(b), ins(op, is, 0, 1))
+				if n, ok := arith.Do(op, a, b); ok {
+					want(t, f, straight(0, number(a), number(b), api.Ins{Op: api.OpConst, Type: is, N: n}))
+				} else if arith.Binary(op) {
+					stays(t, f)
+				}
+			}
+		}
+	}
+}
+
+// Promise 14.1: so are those of truths.
+func TestTruths(t *testing.T) {
+	for a := range int64(2) {
+		want(t, straight(1, truth(a), number(4), ins(api.OpFlip, api.TypeBool, 0)), straight(1, truth(a), number(4), truth(1-a)))
+		for b := range int64(2) {
+			want(t, straight(2, truth(a), truth(b), number(4), ins(api.OpEq, api.TypeBool, 0, 1), ins(api.OpNe, api.TypeBool, 1, 0)),
+				straight(2, truth(a), truth(b), number(4), truth(1-a^b), truth(a^b)))
+		}
+	}
+}
+
+// Promise 14.1: / and % by 0 stay, and what is made of them, whatever is divided; what they are made of is reckoned.
+func TestByNought(t *testing.T) {
+	for _, op := range list(api.OpDiv, api.OpRem) {
+		want(t, straight(4, number(1), number(1), ins(api.OpSub, api.TypeInt, 0, 1), ins(op, api.TypeInt, 0, 2), ins(api.OpAdd, api.TypeInt, 3, 3)),
+			straight(4, number(1), number(1), number(0), ins(op, api.TypeInt, 0, 2), ins(api.OpAdd, api.TypeInt, 3, 3)))
+		stays(t, straight(2, input(), number(3), ins(op, api.TypeInt, 1, 0)))
+		stays(t, straight(2, input(), number(3), ins(op, api.TypeInt, 0, 1)))
+		stays(t, straight(2, input(), number(0), ins(op, api.TypeInt, 1, 0)))
+	}
+}
+
+// Promise 14.1: what is not of known numbers alone stays as it is, even where its result is known; so does what is seen, and what is of rows.
+func TestUnknown(t *testing.T) {
+	for op := api.OpAdd; op <= api.OpUlt; op++ {
+		is := api.TypeInt
+		if arith.Compares(op) {
+			is = api.TypeBool
+		}
+		if !arith.Binary(op) {
+			continue
+		}
+		for _, n := range list(0, 1, -1) {
+			stays(t, straight(0, input(), number(int64(n)), ins(op, is, 0, 1)))
+			stays(t, straight(0, input(), number(int64(n)), ins(op, is, 1, 0)))
+		}
+		stays(t, straight(0, input(), ins(op, is, 0, 0)))
+	}
+	for _, op := range list(api.OpNeg, api.OpNot) {
+		stays(t, straight(1, input(), ins(op, api.TypeInt, 0)))
+	}
+	stays(t, straight(2, number(3), ins(api.OpNew, api.TypeArr, 0), ins(api.OpLen, api.TypeInt, 1)))
+	stays(t, straight(4, number(3), number(4), ins(api.OpNew2, api.TypeMat, 0, 1), ins(api.OpRows, api.TypeInt, 2), ins(api.OpCols, api.TypeInt, 2)))
+	stays(t, straight(3, number(1), ins(api.OpNew, api.TypeArr, 0), ins(api.OpStore, api.TypeVoid, 1, 0, 0), ins(api.OpLoad, api.TypeInt, 1, 0)))
+	stays(t, straight(0, number(1), show(0), show(0)))
+	f := straight(1, number(1), api.Ins{Op: api.OpCall, Type: api.TypeInt, Args: list(0, 0)})
+	f.Params = list(api.TypeInt, api.TypeInt)
+	if got := left(t, f); !ir.Same(got, f) {
+		t.Error(ir.Print(got))
+	}
+}
+
+// Promise 14.1: an OpGuard of a known number that is not 0 goes; of 0, and of what is not known, it stays.
+func TestGuards(t *testing.T) {
+	for which := int64(api.TrapIndex); which <= api.TrapLength; which++ {
+		want(t, straight(2, truth(1), guard(which, 0), number(7), show(2)), straight(1, truth(1), number(7), show(1)))
+		stays(t, straight(2, truth(0), guard(which, 0), number(7), show(2)))
+		stays(t, straight(0, input(), number(7), ins(api.OpLt, api.TypeBool, 0, 1), guard(which, 2)))
+	}
+	// What it goes by is only found out.
+	want(t, straight(0, number(2), number(5), ins(api.OpUlt, api.TypeBool, 0, 1), guard(1, 2), ins(api.OpFlip, api.TypeBool, 2), guard(2, 4)),
+		straight(0, number(2), number(5), truth(1), truth(0), guard(2, 3)))
+}
+
+// Promise 14.1: an OpSelect of what is known is what it chooses, be that known or not, of any type; another one stays.
+func TestSelects(t *testing.T) {
+	for c := range int64(2) {
+		chosen := 2 - int(c)
+		want(t, straight(3, truth(c), input(), input(), ins(api.OpSelect, api.TypeInt, 0, 1, 2), show(3)), straight(chosen, truth(c), input(), input(), show(chosen)))
+		want(t, straight(3, truth(c), number(4), number(5), ins(api.OpSelect, api.TypeInt, 0, 1, 2), ins(api.OpNeg, api.TypeInt, 3)),
+			straight(chosen, truth(c), number(4), number(5), number(-4-(1-c))))
+		want(t, straight(1, truth(c), number(4), ins(api.OpNew, api.TypeArr, 1), ins(api.OpNew, api.TypeArr, 1), ins(api.OpSelect, api.TypeArr, 0, 2, 3), ins(api.OpLen, api.TypeInt, 4)),
+			straight(1, truth(c), number(4), ins(api.OpNew, api.TypeArr, 1), ins(api.OpNew, api.TypeArr, 1), ins(api.OpLen, api.TypeInt, chosen+1)))
+		// Those that choose by what is chosen.
+		want(t, straight(4, truth(c), truth(1-c), input(), ins(api.OpSelect, api.TypeBool, 0, 1, 0), ins(api.OpSelect, api.TypeInt, 3, 2, 2)),
+			straight(2, truth(c), truth(1-c), input()))
+	}
+	stays(t, straight(3, input(), number(4), ins(api.OpLt, api.TypeBool, 0, 1), ins(api.OpSelect, api.TypeInt, 2, 0, 1)))
+	stays(t, straight(3, input(), number(4), ins(api.OpLt, api.TypeBool, 0, 1), ins(api.OpSelect, api.TypeInt, 2, 0, 0)))
+	stays(t, straight(3, input(), number(4), ins(api.OpLt, api.TypeBool, 0, 1), ins(api.OpSelect, api.TypeInt, 2, 1, 1)))
+}
+
+// Promise 14.1: an OpPhi whose Args are all one instruction is that one, and goes; one of two instructions stays, even if both are the same number.
+func TestPhis(t *testing.T) {
+	ahead := []api.Ins{input(), input(), number(3), number(3), ins(api.OpLt, api.TypeBool, 0, 2)}
+	for a := range 2 {
+		want(t, choice(ahead, 4, phi(api.TypeInt, a, a), show(5), ins(api.OpNeg, api.TypeInt, 5)), choice(ahead, 4, show(a), ins(api.OpNeg, api.TypeInt, a)))
+		stays(t, choice(ahead, 4, phi(api.TypeInt, a, 1-a)))
+		stays(t, choice(ahead, 4, phi(api.TypeInt, a, 2)))
+	}
+	want(t, choice(ahead, 4, phi(api.TypeInt, 2, 2), ins(api.OpNeg, api.TypeInt, 5)), choice(ahead, 4, number(-3)))
+	stays(t, choice(ahead, 4, phi(api.TypeInt, 2, 3), ins(api.OpNeg, api.TypeInt, 5)))
+	// One of what is one: both go. What an end goes by is the one, too.
+	want(t, choice(ahead, 4, phi(api.TypeInt, 0, 0), phi(api.TypeInt, 1, 0), phi(api.TypeInt, 1, 1)), func() api.Func {
+		f := choice(ahead, 4, phi(api.TypeInt, 1, 0))
+		f.Blocks[3].Term.Arg = 1
+		return f
+	}())
+	// Behind one way alone.
+	f := api.Func{Name: "main", Ret: api.TypeInt, Ins: []api.Ins{input(), phi(api.TypeInt, 0), phi(api.TypeInt, 1)},
+		Blocks: []api.Block{block(ir.Jump(1), nil, list(0)), block(ir.Jump(2), list(0), list(1)), block(ir.Ret(2), list(1), list(2))}}
+	is := straight(0, input())
+	is.Blocks = []api.Block{block(ir.Jump(1), nil, list(0)), block(ir.Jump(2), list(0), nil), block(ir.Ret(0), list(1), nil)}
+	want(t, f, is)
+}
+
+// round is a main with a loop: block 1 is its head, block 2 goes back, block 3 returns an instruction.
+func round(back int, ahead, head, body []api.Ins, c int) api.Func {
+	h, b := len(ahead), len(ahead)+len(head)
+	return api.Func{Name: "main", Ret: api.TypeInt, Ins: slices.Concat(ahead, head, body), Blocks: []api.Block{
+		block(ir.Jump(1), nil, upTo(0, h)),
+		block(ir.Branch(c, 2, 3), list(0, 2), upTo(h, b)),
+		block(ir.Jump(1), list(1), upTo(b, b+len(body))),
+		block(ir.Ret(back), list(1), nil),
+	}}
+}
+
+// Promise 14.1: an OpPhi may be one of its own Args, and be it only by what is found out behind it.
+func TestLoops(t *testing.T) {
+	ahead := []api.Ins{input(), input(), truth(1), truth(0)}
+	less := ins(api.OpLt, api.TypeBool, 0, 1)
+	is := func(back int, body ...api.Ins) api.Func {
+		return round(back, ahead, []api.Ins{less}, body, 4)
+	}
+	lessThan := func(a int) []api.Ins { return []api.Ins{phi(api.TypeInt, 0, a), ins(api.OpLt, api.TypeBool, 4, 1)} }
+	want(t, round(4, ahead, lessThan(4), nil, 5), is(0))
+	want(t, round(4, ahead, lessThan(0), nil, 5), is(0))
+	stays(t, round(4, ahead, lessThan(1), nil, 5))
+	// It takes itself by an OpSelect, which is looked at later.
+	want(t, round(4, ahead, lessThan(6), []api.Ins{ins(api.OpSelect, api.TypeInt, 2, 4, 1), show(4), show(6)}, 5), is(0, show(0), show(0)))
+	want(t, round(4, ahead, lessThan(6), []api.Ins{ins(api.OpSelect, api.TypeInt, 3, 4, 1)}, 5), round(4, ahead, lessThan(1), nil, 5))
+	// Two that take each other are two: neither is of one instruction.
+	both := []api.Ins{phi(api.TypeInt, 0, 5), phi(api.TypeInt, 0, 4), ins(api.OpLt, api.TypeBool, 4, 5)}
+	stays(t, round(4, ahead, both, nil, 6))
+	// A number that is known only behind the loop's end is known in its head, too.
+	want(t, round(3, []api.Ins{number(1), truth(1)}, []api.Ins{phi(api.TypeInt, 0, 5), ins(api.OpAdd, api.TypeInt, 2, 2), ins(api.OpLt, api.TypeBool, 2, 0)},
+		[]api.Ins{ins(api.OpSelect, api.TypeInt, 1, 2, 3)}, 4),
+		round(2, []api.Ins{number(1), truth(1)}, []api.Ins{number(2), truth(0)}, nil, 3))
+}
+
+// Promise 14.1: what is asked of blocks whose numbers stand in another order than their ways go is the same.
+func TestBlocksInAnyOrder(t *testing.T) {
+	f := api.Func{Name: "main", Ret: api.TypeInt, Ins: []api.Ins{
+		ins(api.OpAdd, api.TypeInt, 1, 3), ins(api.OpMul, api.TypeInt, 2, 2), phi(api.TypeInt, 3), number(3), number(9),
+	}, Blocks: []api.Block{block(ir.Jump(2), nil, list(4, 3)), block(ir.Ret(0), list(2), list(0)), block(ir.Jump(1), list(0), list(2, 1))}}
+	want(t, f, api.Func{Name: "main", Ret: api.TypeInt, Ins: []api.Ins{number(9), number(3), number(12), number(9)},
+		Blocks: []api.Block{block(ir.Jump(2), nil, list(0, 1)), block(ir.Ret(2), list(2), list(2)), block(ir.Jump(1), list(0), list(3))}})
+}
+
+// Promise 14.1: an end stays, even if its number is known; it goes by what is left.
+func TestEnds(t *testing.T) {
+	f := choice([]api.Ins{number(2), truth(1), truth(0), ins(api.OpEq, api.TypeBool, 1, 2), ins(api.OpSelect, api.TypeBool, 3, 1, 3)}, 4, phi(api.TypeInt, 0, 0))
+	is := choice([]api.Ins{number(2), truth(1), truth(0), truth(0)}, 3)
+	is.Blocks[3].Term.Arg = 0
+	want(t, f, is)
+}
+
+// A function that comes to nothing, with names, arguments and types as they were.
+func TestNothing(t *testing.T) {
+	f := api.Func{Name: "f", Params: list(api.TypeInt, api.TypeMat), Ins: []api.Ins{param(api.TypeInt, 0), param(api.TypeMat, 1), truth(1), guard(1, 2)},
+		Blocks: []api.Block{block(ir.Ret(-1), nil, list(0, 1, 2, 3))}}
+	is := api.Func{Name: "f", Params: list(api.TypeInt, api.TypeMat), Ins: []api.Ins{param(api.TypeInt, 0), param(api.TypeMat, 1), truth(1)},
+		Blocks: []api.Block{block(ir.Ret(-1), nil, list(0, 1, 2))}}
+	if got := left(t, f); !ir.Same(got, is) {
+		t.Error(ir.Print(got))
+	}
+	if got := Func(api.Func{}); !reflect.DeepEqual(got, api.Func{}) {
+		t.Errorf("%+v", got)
+	}
+	if got := Func(api.Func{Name: "f", Ret: api.TypeArr}); !reflect.DeepEqual(got, api.Func{Name: "f", Ret: api.TypeArr}) {
+		t.Errorf("%+v", got)
+	}
+}
+
+// R1: what of a function is not there, or is as it may not be, is no fault of the call.
+func TestUnsound(t *testing.T) {
+	loose := []api.Ins{ins(api.OpSelect, api.TypeInt), ins(api.OpSelect, api.TypeInt, 9), ins(api.OpSelect, api.TypeInt, 8, 9), ins(api.OpGuard, 0), ins(api.OpAdd, api.TypeInt), ins(api.OpAdd, api.TypeInt, 8),
+		ins(api.OpNeg, api.TypeInt), phi(api.TypeInt), truth(1), ins(api.OpSelect, api.TypeInt, 8, 9, 9), ins(api.OpSelect, api.TypeInt, 8, 11, 11), ins(api.OpSelect, api.TypeInt, 8, 10, 10),
+		phi(api.TypeInt, 12, 12), phi(api.TypeInt, 14), phi(api.TypeInt, 13), phi(api.TypeInt, -1, 99), ins(api.OpAdd, api.TypeInt, -1, math.MaxInt), {}}
+	left := func(f api.Func) {
+		before := ir.Clone(f)
+		if got := Func(f); !ir.Same(Func(got), got) || !ir.Same(f, before) {
+			t.Error(ir.Print(got))
+		}
+	}
+	left(straight(-1, loose...))
+	left(straight(11, loose...))
+	f := straight(0, number(1), ins(api.OpNeg, api.TypeInt, 0))
+	f.Blocks[0].Term = ir.Jump(5)
+	left(f)
+	f.Blocks[0].List = list(-1, 0, 0, 1, 1, 7)
+	f.Blocks[0].Preds = list(0, -1, 5)
+	f.Blocks[0].Term = ir.Branch(-7, 0, 0)
+	left(f)
+}
+
+// spoil writes over a list, and over the room behind it.
+func spoil(l []int) {
+	l = l[:cap(l)]
+	for i := range l {
+		l[i] = -9
+	}
+}
+
+// R2, R4: what is done to an answer changes nothing, neither what was handed in nor another list of it; the same calls answer the same.
+func TestOwn(t *testing.T) {
+	f := choice([]api.Ins{input(), truth(1), ins(api.OpSelect, api.TypeInt, 1, 0, 0), ins(api.OpNe, api.TypeBool, 0, 2)}, 3, phi(api.TypeInt, 0, 2), phi(api.TypeInt, 0, 2), ins(api.OpSub, api.TypeInt, 4, 5))
+	f.Params = list(api.TypeInt)
+	before, first := ir.Clone(f), ir.Clone(Func(f))
+	lists := func(g *api.Func) []*[]int {
+		out := []*[]int{&g.Params}
+		for id := range g.Ins {
+			out = append(out, &g.Ins[id].Args)
+		}
+		for b := range g.Blocks {
+			k := &g.Blocks[b]
+			out = append(out, &k.List, &k.Preds, &k.Term.To)
+		}
+		return out
+	}
+	for n := range lists(&first) {
+		got := Func(f)
+		if !ir.Same(got, first) {
+			t.Fatal(ir.Print(got), ir.Print(first))
+		}
+		l := lists(&got)[n]
+		spoil(*l)
+		*l = *lists(&first)[n]
+		if !ir.Same(got, first) || !ir.Same(f, before) {
+			t.Fatal(n, ir.Print(got), ir.Print(f))
+		}
+	}
+	got := Func(f)
+	for _, l := range lists(&f) {
+		spoil(*l)
+	}
+	clear(f.Ins)
+	clear(f.Blocks)
+	if !ir.Same(got, first) {
+		t.Error(ir.Print(got))
+	}
+}
