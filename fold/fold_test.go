@@ -3,63 +3,22 @@ package fold
 import (
 	"math"
 	"reflect"
-	"slices"
 	"testing"
 
 	"distaff/api"
 	"distaff/arith"
 	"distaff/ir"
+	"distaff/samples"
 	"distaff/sound"
 )
 
-// Short ways to make functions.
-
-func list(l ...int) []int { return l }
-
-func ins(op, is int, args ...int) api.Ins { return api.Ins{Op: op, Type: is, Args: args} }
-
-func number(n int64) api.Ins { return api.Ins{Op: api.OpConst, Type: api.TypeInt, N: n} }
-
-func truth(n int64) api.Ins { return api.Ins{Op: api.OpConst, Type: api.TypeBool, N: n} }
-
-func param(is int, n int64) api.Ins { return api.Ins{Op: api.OpParam, Type: is, N: n} }
-
-func guard(which int64, arg int) api.Ins {
-	return api.Ins{Op: api.OpGuard, N: which, Args: list(arg)}
-}
-
-func show(arg int) api.Ins { return ins(api.OpPrint, api.TypeVoid, arg) }
-
-func input() api.Ins { return ins(api.OpInput, api.TypeInt) }
-
-func phi(is int, args ...int) api.Ins { return ins(api.OpPhi, is, args...) }
-
-func block(t api.Term, preds, l []int) api.Block { return api.Block{List: l, Preds: preds, Term: t} }
-
-// upTo is the numbers from one on, below another one.
-func upTo(from, below int) []int {
-	var l []int
-	for n := from; n < below; n++ {
-		l = append(l, n)
-	}
-	return l
-}
-
-// straight is a main of one block, with its instructions in order, that returns one of them.
-func straight(back int, l ...api.Ins) api.Func {
-	return api.Func{Name: "main", Ret: api.TypeInt, Ins: l, Blocks: []api.Block{block(ir.Ret(back), nil, upTo(0, len(l)))}}
-}
-
-// choice is a main that goes over one of two ways to its last block, whose instructions are told; it returns the last one of all.
-func choice(ahead []api.Ins, c int, last ...api.Ins) api.Func {
-	many := len(ahead) + len(last)
-	return api.Func{Name: "main", Ret: api.TypeInt, Ins: slices.Concat(ahead, last), Blocks: []api.Block{
-		block(ir.Branch(c, 1, 2), nil, upTo(0, len(ahead))),
-		block(ir.Jump(3), list(0), nil),
-		block(ir.Jump(3), list(0), nil),
-		block(ir.Ret(many-1), list(1, 2), upTo(len(ahead), many)),
-	}}
-}
+// Short names of what makes functions.
+var (
+	list, upTo, block              = samples.List, samples.UpTo, samples.Block
+	ins, number, truth, param, phi = samples.Ins, samples.Number, samples.Truth, samples.Param, samples.Phi
+	guard, show, input             = samples.Guard, samples.Show, samples.Input
+	straight, choice, round        = samples.Straight, samples.Choice, samples.Round
+)
 
 // left asks what is promised of each answer, but what it does: it is sound, nothing is left that the promise rules out, once is as good as twice, and what was handed in is as it was.
 func left(t testing.TB, f api.Func) api.Func {
@@ -137,43 +96,10 @@ func TestSum(t *testing.T) {
 	stays(t, straight(0, number(7), number(7), truth(1)))
 }
 
-// edges are numbers at which operations differ.
-func edges() []int64 {
-	return []int64{0, 1, 2, 3, -1, -2, 7, -7, 63, 64, 65, 1 << 31, 1 << 62, math.MaxInt64, math.MinInt64, math.MinInt64 + 1}
-}
-
 // Promise 14.1: each operation of known numbers is what layer 1 says, of the type that it was of; / and % by 0 stay.
 func TestOperations(t *testing.T) {
-	for op := range api.OpCall + 2 {
-		is := api.TypeInt
-		if arith.Compares(op) {
-			is = api.TypeBool
-		}
-		for _, a := range edges() {
-			if op != api.OpFlip && arith.Unary(op) {
-				n, _ := arith.One(op, a)
-				want(t, straight(0, number(a), ins(op, is, 0)), straight(0, number(a), api.Ins{Op: api.OpConst, Type: is, N: n}))
-			}
-			for _, b := range edges() {
-				f := straight(0, number(a), number(b), ins(op, is, 0, 1))
-				if n, ok := arith.Do(op, a, b); ok {
-					want(t, f, straight(0, number(a), number(b), api.Ins{Op: api.OpConst, Type: is, N: n}))
-				} else if arith.Binary(op) {
-					stays(t, f)
-				}
-			}
-		}
-	}
-}
-
-// Promise 14.1: so are those of truths.
-func TestTruths(t *testing.T) {
-	for a := range int64(2) {
-		want(t, straight(1, truth(a), number(4), ins(api.OpFlip, api.TypeBool, 0)), straight(1, truth(a), number(4), truth(1-a)))
-		for b := range int64(2) {
-			want(t, straight(2, truth(a), truth(b), number(4), ins(api.OpEq, api.TypeBool, 0, 1), ins(api.OpNe, api.TypeBool, 1, 0)),
-				straight(2, truth(a), truth(b), number(4), truth(1-a^b), truth(a^b)))
-		}
+	for _, o := range samples.Operations() {
+		want(t, o.F, o.Is)
 	}
 }
 
@@ -272,17 +198,6 @@ func TestPhis(t *testing.T) {
 	want(t, f, is)
 }
 
-// round is a main with a loop: block 1 is its head, block 2 goes back, block 3 returns an instruction.
-func round(back int, ahead, head, body []api.Ins, c int) api.Func {
-	h, b := len(ahead), len(ahead)+len(head)
-	return api.Func{Name: "main", Ret: api.TypeInt, Ins: slices.Concat(ahead, head, body), Blocks: []api.Block{
-		block(ir.Jump(1), nil, upTo(0, h)),
-		block(ir.Branch(c, 2, 3), list(0, 2), upTo(h, b)),
-		block(ir.Jump(1), list(1), upTo(b, b+len(body))),
-		block(ir.Ret(back), list(1), nil),
-	}}
-}
-
 // Promise 14.1: an OpPhi may be one of its own Args, and be it only by what is found out behind it.
 func TestLoops(t *testing.T) {
 	ahead := []api.Ins{input(), input(), truth(1), truth(0)}
@@ -362,49 +277,11 @@ func TestUnsound(t *testing.T) {
 	left(f)
 }
 
-// spoil writes over a list, and over the room behind it.
-func spoil(l []int) {
-	l = l[:cap(l)]
-	for i := range l {
-		l[i] = -9
-	}
-}
-
 // R2, R4: what is done to an answer changes nothing, neither what was handed in nor another list of it; the same calls answer the same.
 func TestOwn(t *testing.T) {
 	f := choice([]api.Ins{input(), truth(1), ins(api.OpSelect, api.TypeInt, 1, 0, 0), ins(api.OpNe, api.TypeBool, 0, 2)}, 3, phi(api.TypeInt, 0, 2), phi(api.TypeInt, 0, 2), ins(api.OpSub, api.TypeInt, 4, 5))
 	f.Params = list(api.TypeInt)
-	before, first := ir.Clone(f), ir.Clone(Func(f))
-	lists := func(g *api.Func) []*[]int {
-		out := []*[]int{&g.Params}
-		for id := range g.Ins {
-			out = append(out, &g.Ins[id].Args)
-		}
-		for b := range g.Blocks {
-			k := &g.Blocks[b]
-			out = append(out, &k.List, &k.Preds, &k.Term.To)
-		}
-		return out
-	}
-	for n := range lists(&first) {
-		got := Func(f)
-		if !ir.Same(got, first) {
-			t.Fatal(ir.Print(got), ir.Print(first))
-		}
-		l := lists(&got)[n]
-		spoil(*l)
-		*l = *lists(&first)[n]
-		if !ir.Same(got, first) || !ir.Same(f, before) {
-			t.Fatal(n, ir.Print(got), ir.Print(f))
-		}
-	}
-	got := Func(f)
-	for _, l := range lists(&f) {
-		spoil(*l)
-	}
-	clear(f.Ins)
-	clear(f.Blocks)
-	if !ir.Same(got, first) {
-		t.Error(ir.Print(got))
+	if wrong := samples.Shares(Func, f); wrong != "" {
+		t.Error(wrong)
 	}
 }

@@ -5,6 +5,7 @@ import (
 
 	"distaff/api"
 	"distaff/ir"
+	"distaff/samples"
 )
 
 // R1: what is long ends, and soon.
@@ -14,11 +15,7 @@ const many = api.MostIns - 64
 
 // Promise 14.1: a long row of sums, each of the one ahead; told the other way round by its numbers, too.
 func TestLongSum(t *testing.T) {
-	l := []api.Ins{number(1)}
-	for id := range many {
-		l = append(l, ins(api.OpAdd, api.TypeInt, id, 0))
-	}
-	f := straight(many, l...)
+	f := samples.Sums(many)
 	fine(t, f)
 	g := left(t, f)
 	for id, x := range g.Ins {
@@ -28,14 +25,7 @@ func TestLongSum(t *testing.T) {
 	}
 	// Blocks whose numbers fall on the way: each has one sum.
 	const blocks = api.MostBlocks
-	f = api.Func{Name: "main", Ret: api.TypeInt, Ins: []api.Ins{number(1)}, Blocks: make([]api.Block, blocks)}
-	f.Blocks[0] = block(ir.Jump(blocks-1), nil, list(0))
-	for b := blocks - 1; b > 0; b-- {
-		id := len(f.Ins)
-		f.Ins = append(f.Ins, ins(api.OpAdd, api.TypeInt, id-1, 0))
-		f.Blocks[b] = block(ir.Jump(b-1), list((b+1)%blocks), list(id))
-	}
-	f.Blocks[1].Term = ir.Ret(len(f.Ins) - 1)
+	f = samples.Falling(blocks)
 	fine(t, f)
 	g = left(t, f)
 	for b, k := range g.Blocks[1:] {
@@ -84,33 +74,10 @@ func TestDeepLoops(t *testing.T) {
 	}
 }
 
-// ladder is a main whose choices, one behind the other, all lead to one block: it is come to from so many blocks. Each has an instruction of its own, which goes by a number.
-func ladder(ways int, own func(id int) api.Ins) (api.Func, []int) {
-	f := api.Func{Name: "main", Ret: api.TypeInt, Ins: []api.Ins{input(), truth(1), ins(api.OpLt, api.TypeBool, 0, 0)}}
-	var made []int
-	last := api.Block{Term: ir.Ret(0)}
-	for b := range ways {
-		id := len(f.Ins)
-		f.Ins = append(f.Ins, own(id))
-		k := block(ir.Branch(2, ways, b+1), list(b-1), list(id))
-		if b == 0 {
-			k.Preds, k.List = nil, list(0, 1, 2, id)
-		}
-		if b == ways-1 {
-			k.Term = ir.Jump(ways)
-		}
-		made = append(made, id)
-		last.Preds = append(last.Preds, b)
-		f.Blocks = append(f.Blocks, k)
-	}
-	f.Blocks = append(f.Blocks, last)
-	return f, made
-}
-
 // Promise 14.1: OpPhi of very many Args, each of which is found out by itself.
 func TestWidePhi(t *testing.T) {
 	const ways = 1 << 12
-	f, made := ladder(ways, func(int) api.Ins { return ins(api.OpSelect, api.TypeInt, 1, 0, 0) })
+	f, made := samples.Ladder(ways, func(int) api.Ins { return ins(api.OpSelect, api.TypeInt, 1, 0, 0) })
 	for range 64 {
 		f.Blocks[ways].List = append(f.Blocks[ways].List, len(f.Ins))
 		f.Ins = append(f.Ins, phi(api.TypeInt, made...))

@@ -1,0 +1,89 @@
+package samples
+
+import (
+	"slices"
+
+	"distaff/api"
+	"distaff/check"
+	"distaff/exec"
+	"distaff/ir"
+	"distaff/lower"
+	"distaff/parse"
+)
+
+// Lowered is the program of a text in single assignment, or its fault.
+func Lowered(text string) (api.Prog, api.Fault) {
+	p, fault := parse.Parse(text)
+	if fault.Kind == api.FaultNone {
+		p, fault = check.Check(p)
+	}
+	if fault.Kind != api.FaultNone {
+		return api.Prog{}, fault
+	}
+	return lower.Lower(p)
+}
+
+// Runs is what is seen of two programs, each with its fuel, and whether it is the same: if the first one's run ends, the second one's ends so, too; else what it prints comes first.
+func Runs(p, q api.Prog, in []int64, fuel, more int64) (is, got api.Seen, same bool) {
+	is, got = exec.Run(p, in, fuel), exec.Run(q, in, more)
+	begin := got.Events[:min(len(got.Events), len(is.Events))]
+	same = slices.Equal(begin, is.Events)
+	if is.End != api.EndFuel {
+		same = same && got.End == is.End && got.Value == is.Value && len(got.Events) == len(is.Events)
+	}
+	return is, got, same
+}
+
+// lists is all lists of numbers that a function has.
+func lists(f *api.Func) []*[]int {
+	out := []*[]int{&f.Params}
+	for id := range f.Ins {
+		out = append(out, &f.Ins[id].Args)
+	}
+	for b := range f.Blocks {
+		k := &f.Blocks[b]
+		out = append(out, &k.List, &k.Preds, &k.Term.To)
+	}
+	return out
+}
+
+// spoil writes over a list, and over the room behind it.
+func spoil(l []int) {
+	l = l[:cap(l)]
+	for i := range l {
+		l[i] = -9
+	}
+}
+
+// Spoil writes over all that a function has.
+func Spoil(f api.Func) {
+	for _, l := range lists(&f) {
+		spoil(*l)
+	}
+	clear(f.Ins)
+	clear(f.Blocks)
+}
+
+// Shares tells what is wrong with what a pass answers of a function: it answers otherwise another time, changes what is handed in, or its answer has lists that share with that, or with one another. Nothing: it is fine.
+func Shares(pass func(api.Func) api.Func, f api.Func) string {
+	f = ir.Clone(f)
+	before, first := ir.Clone(f), ir.Clone(pass(f))
+	for n := range lists(&first) {
+		got := pass(f)
+		if !ir.Same(got, first) {
+			return "another answer:\n" + ir.Print(got)
+		}
+		l := lists(&got)[n]
+		spoil(*l)
+		*l = *lists(&first)[n]
+		if !ir.Same(got, first) || !ir.Same(f, before) {
+			return "lists that share:\n" + ir.Print(got) + ir.Print(f)
+		}
+	}
+	got := pass(f)
+	Spoil(f)
+	if !ir.Same(got, first) {
+		return "shares with what was handed in:\n" + ir.Print(got)
+	}
+	return ""
+}
