@@ -3,13 +3,13 @@ package fold
 import (
 	"math"
 	"reflect"
+	"strconv"
 	"testing"
 
 	"distaff/api"
 	"distaff/arith"
 	"distaff/ir"
 	"distaff/samples"
-	"distaff/sound"
 )
 
 // Short names of what makes functions.
@@ -18,26 +18,21 @@ var (
 	ins, number, truth, param, phi = samples.Ins, samples.Number, samples.Truth, samples.Param, samples.Phi
 	guard, show, input             = samples.Guard, samples.Show, samples.Input
 	straight, choice, round        = samples.Straight, samples.Choice, samples.Round
+	fine                           = samples.Fine
 )
 
-// left asks what is promised of each answer, but what it does: it is sound, nothing is left that the promise rules out, once is as good as twice, and what was handed in is as it was.
-func left(t testing.TB, f api.Func) api.Func {
-	t.Helper()
-	before := ir.Clone(f)
-	got := Func(f)
-	if !ir.Same(f, before) {
-		t.Fatalf("changed: %s\n%s", ir.Print(before), ir.Print(f))
-	}
-	if !ir.Same(Func(got), got) {
-		t.Fatalf("once more:\n%s\n%s", ir.Print(got), ir.Print(Func(got)))
-	}
+// The pass: nothing is left that the promise rules out.
+var pass = samples.Pass{Func: Func, Wrong: func(got api.Func) string {
 	for id, x := range got.Ins {
 		if ruledOut(got, id, x) {
-			t.Fatalf("%d is left:\n%s", id, ir.Print(got))
+			return strconv.Itoa(id) + " is left"
 		}
 	}
-	return got
-}
+	return ""
+}}
+
+// Short names of what is asked of it.
+var answer, want, wants, stays = pass.Answer, pass.Want, pass.Wants, pass.Stays
 
 // ruledOut tells whether an instruction must not be left.
 func ruledOut(f api.Func, id int, x api.Ins) bool {
@@ -62,30 +57,6 @@ func ruledOut(f api.Func, id int, x api.Ins) bool {
 		return known(0) && known(1)
 	}
 	return false
-}
-
-// want asks what comes of a function.
-func want(t *testing.T, f, is api.Func) {
-	t.Helper()
-	fine(t, f)
-	fine(t, is)
-	if got := left(t, f); !ir.Same(got, is) {
-		t.Errorf("of %sis %snot %s", ir.Print(f), ir.Print(got), ir.Print(is))
-	}
-}
-
-// stays asks whether a function comes out as it is.
-func stays(t *testing.T, f api.Func) {
-	t.Helper()
-	want(t, f, f)
-}
-
-// fine asks whether a main is sound.
-func fine(t testing.TB, f api.Func) {
-	t.Helper()
-	if why, _ := sound.Prog(api.Prog{Funcs: []api.Func{f}}); why != api.FlawNone {
-		t.Fatalf("flaw %d: %s", why, ir.Print(f))
-	}
 }
 
 // Promise 14.1: the chapter's example; what is reckoned is an OpConst in its place, and what nobody needs any more stays.
@@ -139,9 +110,7 @@ func TestUnknown(t *testing.T) {
 	stays(t, straight(0, number(1), show(0), show(0)))
 	f := straight(1, number(1), api.Ins{Op: api.OpCall, Type: api.TypeInt, Args: list(0, 0)})
 	f.Params = list(api.TypeInt, api.TypeInt)
-	if got := left(t, f); !ir.Same(got, f) {
-		t.Error(ir.Print(got))
-	}
+	wants(t, f, f)
 }
 
 // Promise 14.1: an OpGuard of a known number that is not 0 goes; of 0, and of what is not known, it stays.
@@ -244,9 +213,7 @@ func TestNothing(t *testing.T) {
 		Blocks: []api.Block{block(ir.Ret(-1), nil, list(0, 1, 2, 3))}}
 	is := api.Func{Name: "f", Params: list(api.TypeInt, api.TypeMat), Ins: []api.Ins{param(api.TypeInt, 0), param(api.TypeMat, 1), truth(1)},
 		Blocks: []api.Block{block(ir.Ret(-1), nil, list(0, 1, 2))}}
-	if got := left(t, f); !ir.Same(got, is) {
-		t.Error(ir.Print(got))
-	}
+	wants(t, f, is)
 	if got := Func(api.Func{}); !reflect.DeepEqual(got, api.Func{}) {
 		t.Errorf("%+v", got)
 	}
@@ -255,26 +222,29 @@ func TestNothing(t *testing.T) {
 	}
 }
 
+// unsound asks what holds of all functions: once is as good as twice.
+func unsound(t *testing.T, f api.Func) {
+	t.Helper()
+	got := pass.Unsound(t, f)
+	if again := Func(got); !ir.Same(again, got) {
+		t.Fatalf("%s\n%s\n%s", ir.Print(f), ir.Print(got), ir.Print(again))
+	}
+}
+
 // R1: what of a function is not there, or is as it may not be, is no fault of the call.
 func TestUnsound(t *testing.T) {
 	loose := []api.Ins{ins(api.OpSelect, api.TypeInt), ins(api.OpSelect, api.TypeInt, 9), ins(api.OpSelect, api.TypeInt, 8, 9), ins(api.OpGuard, 0), ins(api.OpAdd, api.TypeInt), ins(api.OpAdd, api.TypeInt, 8),
 		ins(api.OpNeg, api.TypeInt), phi(api.TypeInt), truth(1), ins(api.OpSelect, api.TypeInt, 8, 9, 9), ins(api.OpSelect, api.TypeInt, 8, 11, 11), ins(api.OpSelect, api.TypeInt, 8, 10, 10),
 		phi(api.TypeInt, 12, 12), phi(api.TypeInt, 14), phi(api.TypeInt, 13), phi(api.TypeInt, -1, 99), ins(api.OpAdd, api.TypeInt, -1, math.MaxInt), {}}
-	left := func(f api.Func) {
-		before := ir.Clone(f)
-		if got := Func(f); !ir.Same(Func(got), got) || !ir.Same(f, before) {
-			t.Error(ir.Print(got))
-		}
-	}
-	left(straight(-1, loose...))
-	left(straight(11, loose...))
+	unsound(t, straight(-1, loose...))
+	unsound(t, straight(11, loose...))
 	f := straight(0, number(1), ins(api.OpNeg, api.TypeInt, 0))
 	f.Blocks[0].Term = ir.Jump(5)
-	left(f)
+	unsound(t, f)
 	f.Blocks[0].List = list(-1, 0, 0, 1, 1, 7)
 	f.Blocks[0].Preds = list(0, -1, 5)
 	f.Blocks[0].Term = ir.Branch(-7, 0, 0)
-	left(f)
+	unsound(t, f)
 }
 
 // R2, R4: what is done to an answer changes nothing, neither what was handed in nor another list of it; the same calls answer the same.

@@ -17,7 +17,7 @@ const many = api.MostIns - 64
 func TestLongSum(t *testing.T) {
 	f := samples.Sums(many)
 	fine(t, f)
-	g := left(t, f)
+	g := answer(t, f)
 	for id, x := range g.Ins {
 		if x.Op != api.OpConst || x.N != int64(id)+1 {
 			t.Fatal(id, x)
@@ -27,7 +27,7 @@ func TestLongSum(t *testing.T) {
 	const blocks = api.MostBlocks
 	f = samples.Falling(blocks)
 	fine(t, f)
-	g = left(t, f)
+	g = answer(t, f)
 	for b, k := range g.Blocks[1:] {
 		if x := g.Ins[k.List[0]]; x.Op != api.OpConst || x.N != int64(blocks-b-1)+1 {
 			t.Fatal(b, x)
@@ -66,7 +66,7 @@ func TestDeepLoops(t *testing.T) {
 		f.Blocks[deep+1].List = append(f.Blocks[deep+1].List, id)
 	}
 	fine(t, f)
-	g := left(t, f)
+	g := answer(t, f)
 	for id, x := range g.Ins {
 		if x.Op == api.OpPhi || x.Op == api.OpSelect || x.Op == api.OpAdd && (x.Args[0] != 0 || x.Args[1] != 0) {
 			t.Fatal(id, x)
@@ -84,7 +84,7 @@ func TestWidePhi(t *testing.T) {
 	}
 	f.Blocks[ways].Term.Arg = len(f.Ins) - 1
 	fine(t, f)
-	if g := left(t, f); len(g.Ins) != 3 || g.Blocks[ways].Term.Arg != 0 {
+	if g := answer(t, f); len(g.Ins) != 3 || g.Blocks[ways].Term.Arg != 0 {
 		t.Error(len(g.Ins))
 	}
 }
@@ -113,7 +113,7 @@ func TestManyWaysBack(t *testing.T) {
 		f.Ins[3].Args = append(f.Ins[3].Args, id)
 	}
 	fine(t, f)
-	if g := left(t, f); len(g.Ins) != 3 || g.Blocks[2].Term.Arg != 0 {
+	if g := answer(t, f); len(g.Ins) != 3 || g.Blocks[2].Term.Arg != 0 {
 		t.Error(len(g.Ins))
 	}
 }

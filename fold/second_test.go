@@ -9,7 +9,6 @@ import (
 	"distaff/arith"
 	"distaff/ir"
 	"distaff/samples"
-	"distaff/sound"
 )
 
 // second is a second reading of the chapter: one instruction after the other, by an Edit, till there is nothing to do.
@@ -61,42 +60,13 @@ func secondly(f *api.Func, id int, x api.Ins) (by int, gone bool, n int64, known
 	return 0, false, n, known
 }
 
-// folded is a program all of whose functions are folded: as sound as it was.
-func folded(t testing.TB, p api.Prog) api.Prog {
-	t.Helper()
-	q := api.Prog{Main: p.Main}
-	for _, f := range p.Funcs {
-		q.Funcs = append(q.Funcs, left(t, f))
-	}
-	if why, n := sound.Prog(q); why != api.FlawNone {
-		t.Fatalf("flaw %d:\n%s\n%s", why, ir.Print(p.Funcs[n]), ir.Print(q.Funcs[n]))
-	}
-	return q
-}
-
-// same runs two programs: the same is seen of them, and the second one takes no more fuel.
-func same(t testing.TB, p, q api.Prog, in []int64, fuel int64) api.Seen {
-	t.Helper()
-	is, got, alike := samples.Runs(p, q, in, fuel, fuel)
-	if !alike || is.End != api.EndFuel && got.Used > is.Used {
-		for n := range p.Funcs {
-			t.Logf("%s\n%s", ir.Print(p.Funcs[n]), ir.Print(q.Funcs[n]))
-		}
-		t.Fatalf("%v: %+v, not %+v", in, got, is)
-	}
-	return is
-}
-
 // Promise 14.1: of programs made by chance the same comes as by the second reading, and they do the same, with less fuel.
 func TestByChance(t *testing.T) {
 	r := rand.New(rand.NewSource(14))
 	ends, went, stayed := map[int]int{}, map[int]int{}, map[int]int{}
 	for range 6000 {
 		p := samples.Program(r)
-		if why, n := sound.Prog(p); why != api.FlawNone {
-			t.Fatalf("flaw %d: %s", why, ir.Print(p.Funcs[n]))
-		}
-		q := folded(t, p)
+		q := pass.Prog(t, p)
 		for n, f := range q.Funcs {
 			if is := second(p.Funcs[n]); !ir.Same(f, is) {
 				t.Fatalf("of\n%sis\n%snot\n%s", ir.Print(p.Funcs[n]), ir.Print(f), ir.Print(is))
@@ -113,11 +83,8 @@ func TestByChance(t *testing.T) {
 				went[op] += many[op]
 			}
 		}
-		in := make([]int64, r.Intn(8))
-		for i := range in {
-			in[i] = int64(r.Intn(5))
-		}
-		ends[same(t, p, q, in, 2000).End]++
+		is, _ := samples.NoMoreFuel(t, p, q, samples.SomeInput(r), 2000)
+		ends[is.End]++
 	}
 	t.Log(ends, went, stayed)
 	for op := api.OpPhi; op <= api.OpCall; op++ {
@@ -135,14 +102,6 @@ func TestByChance(t *testing.T) {
 func TestGarbage(t *testing.T) {
 	r := rand.New(rand.NewSource(15))
 	for range 20000 {
-		f := samples.Garbage(r)
-		before := ir.Clone(f)
-		got := Func(f)
-		if !ir.Same(f, before) || !ir.Same(Func(f), got) {
-			t.Fatalf("%s\n%s", ir.Print(before), ir.Print(got))
-		}
-		if again := Func(got); !ir.Same(again, got) {
-			t.Fatalf("%s\n%s\n%s", ir.Print(f), ir.Print(got), ir.Print(again))
-		}
+		unsound(t, samples.Garbage(r))
 	}
 }

@@ -9,16 +9,6 @@ import (
 	"distaff/samples"
 )
 
-// lowered is the program of a text, in single assignment.
-func lowered(t testing.TB, text string) api.Prog {
-	t.Helper()
-	p, fault := samples.Lowered(text)
-	if fault.Kind != api.FaultNone {
-		t.Fatalf("fault %v of %.1000s", fault, text)
-	}
-	return p
-}
-
 // Promise 14.1: of texts whose numbers are known the checks and the sums go, and what is not known stays.
 func TestTexts(t *testing.T) {
 	for _, c := range []struct {
@@ -39,9 +29,9 @@ func TestTexts(t *testing.T) {
 		{"var a = 0; for i = 0 to 5 { a = a + i * (2 - 1); } return a << (4 - 4);", api.EndHalt, 10, 5, 0},
 		{"print 9223372036854775807 + 1; print -9223372036854775808 / -1; return -7 >>> 60;", api.EndHalt, 15, 0, 0},
 	} {
-		p := lowered(t, "fn main(): int { "+c.text+" }")
-		q := folded(t, p)
-		got := same(t, p, q, []int64{5, 1}, 1000)
+		p := samples.Lowered(t, "fn main(): int { "+c.text+" }")
+		q := pass.Prog(t, p)
+		got, _ := samples.NoMoreFuel(t, p, q, []int64{5, 1}, 1000)
 		operations, guards := 0, 0
 		for _, x := range q.Funcs[0].Ins {
 			if x.Op >= api.OpAdd && x.Op <= api.OpFlip {
@@ -62,14 +52,14 @@ func TestTextsByChance(t *testing.T) {
 	ends := map[[2]int64]int{}
 	for seed := range int64(1200) {
 		text := samples.Text(rand.New(rand.NewSource(seed)))
-		p := lowered(t, text)
-		q := folded(t, p)
+		p := samples.Lowered(t, text)
+		q := pass.Prog(t, p)
 		for n := range q.Funcs {
 			if is := second(p.Funcs[n]); !ir.Same(q.Funcs[n], is) {
 				t.Fatalf("%s\nis\n%snot\n%s", text, ir.Print(q.Funcs[n]), ir.Print(is))
 			}
 		}
-		got := same(t, p, q, []int64{3, 0, 1, -1}, 5000)
+		got, _ := samples.NoMoreFuel(t, p, q, []int64{3, 0, 1, -1}, 5000)
 		end := [2]int64{int64(got.End), got.Value}
 		if got.End == api.EndHalt {
 			end[1] = 0

@@ -1,38 +1,9 @@
 package samples
 
 import (
-	"slices"
-
 	"distaff/api"
-	"distaff/check"
-	"distaff/exec"
 	"distaff/ir"
-	"distaff/lower"
-	"distaff/parse"
 )
-
-// Lowered is the program of a text in single assignment, or its fault.
-func Lowered(text string) (api.Prog, api.Fault) {
-	p, fault := parse.Parse(text)
-	if fault.Kind == api.FaultNone {
-		p, fault = check.Check(p)
-	}
-	if fault.Kind != api.FaultNone {
-		return api.Prog{}, fault
-	}
-	return lower.Lower(p)
-}
-
-// Runs is what is seen of two programs, each with its fuel, and whether it is the same: if the first one's run ends, the second one's ends so, too; else what it prints comes first.
-func Runs(p, q api.Prog, in []int64, fuel, more int64) (is, got api.Seen, same bool) {
-	is, got = exec.Run(p, in, fuel), exec.Run(q, in, more)
-	begin := got.Events[:min(len(got.Events), len(is.Events))]
-	same = slices.Equal(begin, is.Events)
-	if is.End != api.EndFuel {
-		same = same && got.End == is.End && got.Value == is.Value && len(got.Events) == len(is.Events)
-	}
-	return is, got, same
-}
 
 // lists is all lists of numbers that a function has.
 func lists(f *api.Func) []*[]int {

@@ -9,7 +9,6 @@ import (
 	"distaff/arith"
 	"distaff/ir"
 	"distaff/samples"
-	"distaff/sound"
 )
 
 // second is a second reading of the chapter: all is gone through over and over, till there is nothing new. Of each instruction it keeps the numbers that it may be: with two, all may be.
@@ -176,15 +175,15 @@ func newCounts() *counts { return &counts{known: map[int]int{}, ends: map[int]in
 // promised asks of a program, that is sound, all that is promised: by its words, by the second reading, by runs. It tells what came of it, and how it runs.
 func promised(t *testing.T, p api.Prog, in []int64, fuel int64, met *counts) (q api.Prog, is api.Seen) {
 	t.Helper()
-	q.Main = p.Main
-	for _, f := range p.Funcs {
+	q = pass.Prog(t, p)
+	for n, f := range p.Funcs {
 		known, numbers := Facts(f)
 		s := secondly(f)
 		isKnown, isNumbers := s.facts()
 		if !slices.Equal(known, isKnown) || !slices.Equal(numbers, isNumbers) {
 			t.Fatalf("of %s\n%v %v, not\n%v %v", ir.Print(f), known, numbers, isKnown, isNumbers)
 		}
-		got := answer(t, f)
+		got := q.Funcs[n]
 		if is := s.done(); !ir.Same(got, is) {
 			t.Fatalf("of\n%sis\n%snot\n%s", ir.Print(f), ir.Print(got), ir.Print(is))
 		}
@@ -194,16 +193,12 @@ func promised(t *testing.T, p api.Prog, in []int64, fuel int64, met *counts) (q 
 			}
 		}
 		met.ways += ways(f) - ways(got)
-		q.Funcs = append(q.Funcs, got)
 	}
-	if why, n := sound.Prog(q); why != api.FlawNone {
-		t.Fatalf("flaw %d:\n%s\n%s", why, ir.Print(p.Funcs[n]), ir.Print(q.Funcs[n]))
-	}
-	is, got := same(t, p, q, in, fuel, fuel)
+	is, got := samples.Same(t, p, q, in, fuel, fuel)
 	if got.Used != is.Used {
 		t.Fatal(got, is)
 	}
-	same(t, p, watched(p), in, fuel, 4*fuel)
+	samples.Same(t, p, watched(p), in, fuel, 4*fuel)
 	met.ends[is.End]++
 	return q, is
 }
@@ -217,28 +212,12 @@ func ways(f api.Func) int {
 	return n
 }
 
-// same runs two programs, of which the second one may need more fuel: the same is seen of them.
-func same(t *testing.T, p, q api.Prog, in []int64, fuel, more int64) (is, got api.Seen) {
-	t.Helper()
-	is, got, alike := samples.Runs(p, q, in, fuel, more)
-	if !alike {
-		for n := range p.Funcs {
-			t.Logf("%s\n%s", ir.Print(p.Funcs[n]), ir.Print(q.Funcs[n]))
-		}
-		t.Fatalf("%v: %+v, not %+v", in, got, is)
-	}
-	return is, got
-}
-
 // Promise 15.1: of programs made by chance.
 func TestByChance(t *testing.T) {
 	r := rand.New(rand.NewSource(15))
 	met := newCounts()
 	for range 6000 {
-		in := make([]int64, r.Intn(8))
-		for i := range in {
-			in[i] = int64(r.Intn(5))
-		}
+		in := samples.SomeInput(r)
 		promised(t, samples.Program(r), in, 2000, met)
 	}
 	t.Log(met)

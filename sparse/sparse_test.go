@@ -4,13 +4,13 @@ import (
 	"math"
 	"reflect"
 	"slices"
+	"strconv"
 	"testing"
 
 	"distaff/api"
 	"distaff/arith"
 	"distaff/ir"
 	"distaff/samples"
-	"distaff/sound"
 )
 
 // Short names of what makes functions.
@@ -19,56 +19,27 @@ var (
 	ins, number, truth, param, phi = samples.Ins, samples.Number, samples.Truth, samples.Param, samples.Phi
 	guard, show, input, main       = samples.Guard, samples.Show, samples.Input, samples.Main
 	straight, choice, round        = samples.Straight, samples.Choice, samples.Round
+	fine                           = samples.Fine
 )
 
-// answer is what comes of a function; it asks what is promised of each one, but what it does: what is known is OpConst, no end goes by what is known, once is as good as twice, and what was handed in is as it was.
-func answer(t testing.TB, f api.Func) api.Func {
-	t.Helper()
-	before := ir.Clone(f)
-	got := Func(f)
-	if !ir.Same(f, before) {
-		t.Fatalf("changed: %s\n%s", ir.Print(before), ir.Print(f))
-	}
-	if again := Func(got); !ir.Same(again, got) {
-		t.Fatalf("once more:\n%s\n%s", ir.Print(got), ir.Print(again))
-	}
+// The pass: what is known is OpConst, and no end goes by what is known.
+var pass = samples.Pass{Func: Func, Wrong: func(got api.Func) string {
 	known, _ := Facts(got)
 	for id, x := range got.Ins {
 		if known[id] != (x.Op == api.OpConst) {
-			t.Fatalf("%d is left:\n%s", id, ir.Print(got))
+			return strconv.Itoa(id) + " is left"
 		}
 	}
 	for b, k := range got.Blocks {
 		if k.Term.Kind == api.TermBranch && known[k.Term.Arg] {
-			t.Fatalf("the end of %d is left:\n%s", b, ir.Print(got))
+			return "the end of " + strconv.Itoa(b) + " is left"
 		}
 	}
-	return got
-}
+	return ""
+}}
 
-// fine asks whether a main is sound.
-func fine(t testing.TB, f api.Func) {
-	t.Helper()
-	if why, _ := sound.Prog(api.Prog{Funcs: []api.Func{f}}); why != api.FlawNone {
-		t.Fatalf("flaw %d: %s", why, ir.Print(f))
-	}
-}
-
-// want asks what comes of a function.
-func want(t *testing.T, f, is api.Func) {
-	t.Helper()
-	fine(t, f)
-	fine(t, is)
-	if got := answer(t, f); !ir.Same(got, is) {
-		t.Errorf("of %sis %snot %s", ir.Print(f), ir.Print(got), ir.Print(is))
-	}
-}
-
-// stays asks whether a function comes out as it is.
-func stays(t *testing.T, f api.Func) {
-	t.Helper()
-	want(t, f, f)
-}
+// Short names of what is asked of it.
+var answer, want, wants, stays = pass.Answer, pass.Want, pass.Wants, pass.Stays
 
 // facts asks what is known of a function: pairs of an instruction and its number; nothing is known of others.
 func facts(t *testing.T, f api.Func, pairs ...int64) {
@@ -161,9 +132,7 @@ func TestUnknown(t *testing.T) {
 	f = straight(2, number(1), param(api.TypeInt, 0), api.Ins{Op: api.OpCall, Type: api.TypeInt, Args: list(0)})
 	f.Params = list(api.TypeInt)
 	facts(t, f, 0, 1)
-	if got := answer(t, f); !ir.Same(got, f) {
-		t.Error(ir.Print(got))
-	}
+	wants(t, f, f)
 }
 
 // Promise 15.1: an OpSelect of what is known is what it chooses; of what is not, it is known if both are the same number.
@@ -333,9 +302,7 @@ func TestNothing(t *testing.T) {
 	is := api.Func{Name: "f", Params: list(api.TypeInt, api.TypeMat), Ins: []api.Ins{param(api.TypeInt, 0), param(api.TypeMat, 1), truth(1), truth(0)},
 		Blocks: []api.Block{block(ir.Jump(1), nil, list(0, 1, 2, 3)), block(ir.Ret(-1), list(0), nil)}}
 	facts(t, f, 2, 1, 3, 0)
-	if got := answer(t, f); !ir.Same(got, is) {
-		t.Error(ir.Print(got))
-	}
+	wants(t, f, is)
 	for _, f := range []api.Func{{}, {Name: "f", Ret: api.TypeArr, Params: list(api.TypeInt)}} {
 		facts(t, f)
 		if got := Func(f); !reflect.DeepEqual(got, f) {
@@ -375,16 +342,16 @@ func TestUnsound(t *testing.T) {
 // unsound asks what holds of all functions.
 func unsound(t *testing.T, f api.Func) {
 	t.Helper()
+	pass.Unsound(t, f)
 	before := ir.Clone(f)
 	known, numbers := Facts(f)
+	if len(known) != len(f.Ins) || len(numbers) != len(f.Ins) || !ir.Same(f, before) {
+		t.Fatal(len(known), len(numbers), ir.Print(before), ir.Print(f))
+	}
 	for id := range known {
 		if !known[id] && numbers[id] != 0 {
 			t.Errorf("%d of %s", numbers[id], ir.Print(f))
 		}
-	}
-	got := Func(f)
-	if len(known) != len(f.Ins) || len(numbers) != len(f.Ins) || !ir.Same(Func(f), got) || !ir.Same(f, before) {
-		t.Error(ir.Print(before), ir.Print(got))
 	}
 }
 

@@ -9,16 +9,6 @@ import (
 	"distaff/samples"
 )
 
-// lowered is the program of a text, in single assignment.
-func lowered(t *testing.T, text string) api.Prog {
-	t.Helper()
-	p, fault := samples.Lowered(text)
-	if fault.Kind != api.FaultNone {
-		t.Fatalf("fault %v of %.1000s", fault, text)
-	}
-	return p
-}
-
 // Promise 15.1: of texts, which branches and which OpPhi are left, and how they run.
 func TestTexts(t *testing.T) {
 	for _, c := range []struct {
@@ -44,7 +34,7 @@ func TestTexts(t *testing.T) {
 		{"var r = new [3]; if 4 < 3 && input > 0 { return 7; } return r[5];", 0, 0, api.EndTrap, api.TrapIndex},
 		{"if true || input > 0 { return 6; } return 7;", 0, 0, api.EndHalt, 6},
 	} {
-		q, is := promised(t, lowered(t, "fn main(): int { "+c.text+" }"), []int64{5, 1, 0}, 1000, newCounts())
+		q, is := promised(t, samples.Lowered(t, "fn main(): int { "+c.text+" }"), []int64{5, 1, 0}, 1000, newCounts())
 		branches, phis := 0, 0
 		f := q.Funcs[0]
 		for _, k := range f.Blocks {
@@ -67,7 +57,7 @@ func TestTexts(t *testing.T) {
 func TestTextsByChance(t *testing.T) {
 	met := newCounts()
 	for seed := range int64(1200) {
-		promised(t, lowered(t, samples.Text(rand.New(rand.NewSource(seed)))), []int64{3, 0, 1, -1}, 5000, met)
+		promised(t, samples.Lowered(t, samples.Text(rand.New(rand.NewSource(seed)))), []int64{3, 0, 1, -1}, 5000, met)
 	}
 	t.Log(met)
 	if met.ways < 1000 || met.known[api.OpPhi] < 500 || min(met.ends[api.EndFuel], met.ends[api.EndHalt], met.ends[api.EndTrap]) < 100 {
