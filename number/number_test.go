@@ -19,6 +19,7 @@ var (
 	ins, number, truth, param, phi = samples.Ins, samples.Number, samples.Truth, samples.Param, samples.Phi
 	guard, show, input, main       = samples.Guard, samples.Show, samples.Input, samples.Main
 	straight, choice, round        = samples.Straight, samples.Choice, samples.Round
+	ofEach, computing              = samples.OfEach, samples.Computing
 	fine                           = samples.Fine
 )
 
@@ -75,33 +76,6 @@ func twice(f api.Func) (over, id int, found bool) {
 		}
 	}
 	return 0, 0, false
-}
-
-// ofEach is a main with something of each type, from 2 on: two numbers that are read, two truths, two rows, two rows of rows; then come the instructions that are told, from 10 on.
-func ofEach(l ...api.Ins) api.Func {
-	return straight(2, append([]api.Ins{number(3), number(4), input(), input(), ins(api.OpLt, api.TypeBool, 2, 3), ins(api.OpLe, api.TypeBool, 2, 3),
-		ins(api.OpNew, api.TypeArr, 0), ins(api.OpNew, api.TypeArr, 0), ins(api.OpNew2, api.TypeMat, 0, 1), ins(api.OpNew2, api.TypeMat, 0, 1)}, l...)...)
-}
-
-// computing is each instruction that only computes, of what ofEach has.
-func computing() []api.Ins {
-	l := []api.Ins{number(8), number(math.MinInt64), truth(0), truth(1), ins(api.OpNeg, api.TypeInt, 2), ins(api.OpNeg, api.TypeInt, 3), ins(api.OpNot, api.TypeInt, 2),
-		ins(api.OpFlip, api.TypeBool, 4), ins(api.OpFlip, api.TypeBool, 5), ins(api.OpEq, api.TypeBool, 4, 5), ins(api.OpNe, api.TypeBool, 4, 5), ins(api.OpEq, api.TypeBool, 4, 4),
-		ins(api.OpLen, api.TypeInt, 6), ins(api.OpLen, api.TypeInt, 7), ins(api.OpRows, api.TypeInt, 8), ins(api.OpRows, api.TypeInt, 9), ins(api.OpCols, api.TypeInt, 8)}
-	for _, args := range [][]int{{4, 2, 3}, {4, 3, 2}, {5, 2, 3}, {4, 2, 2}} {
-		l = append(l, ins(api.OpSelect, api.TypeInt, args...))
-	}
-	l = append(l, ins(api.OpSelect, api.TypeBool, 4, 4, 5), ins(api.OpSelect, api.TypeArr, 4, 6, 7), ins(api.OpSelect, api.TypeMat, 4, 8, 9))
-	for op := api.OpAdd; op <= api.OpUlt; op++ {
-		is := api.TypeInt
-		if arith.Compares(op) {
-			is = api.TypeBool
-		}
-		if arith.Binary(op) {
-			l = append(l, ins(op, is, 0, 1), ins(op, is, 1, 0), ins(op, is, 0, 0), ins(op, is, 2, 1))
-		}
-	}
-	return l
 }
 
 // Promise 16.1: the chapter's example; what was made of what goes is made of what is left.

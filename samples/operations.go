@@ -58,3 +58,30 @@ func operation(op int, n int64, ok bool, of ...api.Ins) Operation {
 	}
 	return out
 }
+
+// OfEach is a main with something of each type, from 2 on: two numbers that are read, two truths, two rows, two rows of rows; then come the instructions that are told, from 10 on.
+func OfEach(l ...api.Ins) api.Func {
+	return Straight(2, append([]api.Ins{Number(3), Number(4), Input(), Input(), Ins(api.OpLt, api.TypeBool, 2, 3), Ins(api.OpLe, api.TypeBool, 2, 3),
+		Ins(api.OpNew, api.TypeArr, 0), Ins(api.OpNew, api.TypeArr, 0), Ins(api.OpNew2, api.TypeMat, 0, 1), Ins(api.OpNew2, api.TypeMat, 0, 1)}, l...)...)
+}
+
+// Computing is each instruction that only computes, of what OfEach has.
+func Computing() []api.Ins {
+	l := []api.Ins{Number(8), Number(math.MinInt64), Truth(0), Truth(1), Ins(api.OpNeg, api.TypeInt, 2), Ins(api.OpNeg, api.TypeInt, 3), Ins(api.OpNot, api.TypeInt, 2),
+		Ins(api.OpFlip, api.TypeBool, 4), Ins(api.OpFlip, api.TypeBool, 5), Ins(api.OpEq, api.TypeBool, 4, 5), Ins(api.OpNe, api.TypeBool, 4, 5), Ins(api.OpEq, api.TypeBool, 4, 4),
+		Ins(api.OpLen, api.TypeInt, 6), Ins(api.OpLen, api.TypeInt, 7), Ins(api.OpRows, api.TypeInt, 8), Ins(api.OpRows, api.TypeInt, 9), Ins(api.OpCols, api.TypeInt, 8)}
+	for _, args := range [][]int{{4, 2, 3}, {4, 3, 2}, {5, 2, 3}, {4, 2, 2}} {
+		l = append(l, Ins(api.OpSelect, api.TypeInt, args...))
+	}
+	l = append(l, Ins(api.OpSelect, api.TypeBool, 4, 4, 5), Ins(api.OpSelect, api.TypeArr, 4, 6, 7), Ins(api.OpSelect, api.TypeMat, 4, 8, 9))
+	for op := api.OpAdd; op <= api.OpUlt; op++ {
+		is := api.TypeInt
+		if arith.Compares(op) {
+			is = api.TypeBool
+		}
+		if arith.Binary(op) {
+			l = append(l, Ins(op, is, 0, 1), Ins(op, is, 1, 0), Ins(op, is, 0, 0), Ins(op, is, 2, 1))
+		}
+	}
+	return l
+}
